@@ -1,0 +1,97 @@
+package acre_test
+
+import (
+	"math/rand"
+	"reflect"
+	"testing"
+
+	"acre/acre"
+)
+
+func TestErrnos(t *testing.T) {
+	for i, e := range []acre.Errno{acre.OK, acre.ErrLong, acre.ErrText, acre.ErrMany, acre.ErrFew, acre.ErrSide, acre.ErrArg, acre.ErrCert, acre.ErrWrong} {
+		if int(e) != i {
+			t.Errorf("error %d has the number %d", i, e)
+		}
+	}
+}
+
+func TestListsAreLeftAlone(t *testing.T) {
+	r := rand.New(rand.NewSource(1))
+	lists := noFields()
+	for range 200 {
+		lists = append(lists, someField(r, 3))
+	}
+	for i, f := range lists {
+		before := copyOf(f)
+		acre.Write(f)
+		acre.Where(f, frac(1, 2), frac(1, 3))
+		after := copyOf(f)
+		if !reflect.DeepEqual(before, after) {
+			t.Errorf("P1: list %d is changed", i)
+		}
+	}
+}
+
+// What is written into one answer is seen neither in another answer, nor in
+// another ring of its own, not even past a ring's end.
+func TestAnswersAreNewMemory(t *testing.T) {
+	const text = "0,0 4,0 4,4;1,1 2,1 2,2 1,2"
+	first, _, _ := acre.Read(text)
+	second, _, _ := acre.Read(text)
+	want := copyOf(second)
+	for i := range first {
+		grown := append(first[i], point(9, 9))
+		grown = grown[:cap(grown)]
+		for j := range grown {
+			grown[j] = point(9+i, 9)
+		}
+		for _, other := range first[i+1:] {
+			if other[0] == point(9+i, 9) {
+				t.Errorf("P1: ring %d of an answer shares memory with one behind it", i)
+			}
+		}
+	}
+	_ = append(first, nil)
+	if third, _, _ := acre.Read(text); !reflect.DeepEqual(second, want) || !reflect.DeepEqual(third, want) {
+		t.Errorf("P1: after a change of one answer others are %v and %v, want %v", second, third, want)
+	}
+}
+
+// Any bytes and any numbers: the calls end, do not panic, and answer the same
+// again.
+func TestAnythingGoes(t *testing.T) {
+	r := rand.New(rand.NewSource(2))
+	const bytes = "0123456789,,,,,  ;--\xe2\x88\x92\xff\x00x"
+	ints := []int{0, 1, -1, 2, 12, -12, 13, -13, 1152, 1153, 1 << 31, -1 << 31, int(^uint(0) >> 1), -int(^uint(0)>>1) - 1, 1 << 62, -1 << 62}
+	some := func() int { return ints[r.Intn(len(ints))] }
+	for range 20000 {
+		text := make([]byte, r.Intn(130))
+		for i := range text {
+			text[i] = bytes[r.Intn(len(bytes))]
+		}
+		f, e, at := acre.Read(string(text))
+		g, d, bt := acre.Read(string(text))
+		if !reflect.DeepEqual(f, g) || e != d || at != bt || e != acre.OK && f != nil || at < 0 || at > len(text) {
+			t.Fatalf("P1: Read(%q) = %v, %d, %d, then %v, %d, %d", text, f, e, at, g, d, bt)
+		}
+		x, y := frac(some(), some()), frac(some(), some())
+		wide := field(ring(some(), some(), some(), some(), some(), some()))
+		n, e := acre.Where(wide, x, y)
+		m, d := acre.Where(wide, x, y)
+		if n != m || e != d || e != acre.OK && n != 0 {
+			t.Fatalf("P1: Where(%v, %v, %v) = %d, %d, then %d, %d", wide, x, y, n, e, m, d)
+		}
+		s, e := acre.Write(wide)
+		u, d := acre.Write(wide)
+		if s != u || e != d || e != acre.OK && s != "" {
+			t.Fatalf("P1: Write(%v) = %q, %d, then %q, %d", wide, s, e, u, d)
+		}
+		one, two := edge(some(), some(), some(), some()), edge(some(), some(), some(), some())
+		n, x, y = acre.Meet(one, two)
+		m, z, w := acre.Meet(one, two)
+		if n != m || x != z || y != w || n != 1 && (x != acre.Frac{} || y != acre.Frac{}) {
+			t.Fatalf("P1: Meet(%v, %v) = %d, %v, %v, then %d, %v, %v", one, two, n, x, y, m, z, w)
+		}
+	}
+}
