@@ -34,11 +34,5 @@ type Piece struct {
 // Guess guesses a certificate (P6).
 func Guess(a string, b string, op int) (string, Errno, int) { return "", 0, 0 }
 
-// Slow makes one (P6).
-func Slow(a string, b string, op int) (string, Errno, int) { return "", 0, 0 }
-
-// Check tells whether one is right (P7).
-func Check(a string, b string, op int, cert string) (Errno, int) { return 0, 0 }
-
 // Combine puts two fields together (P8).
 func Combine(a string, b string, op int, offer string) ([]Piece, Errno, int) { return nil, 0, 0 }

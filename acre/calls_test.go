@@ -95,3 +95,58 @@ func TestAnythingGoes(t *testing.T) {
 		}
 	}
 }
+
+// someBytes are bytes that texts are made of, and others.
+func someBytes(r *rand.Rand, bytes string, most int) string {
+	text := make([]byte, r.Intn(most+1))
+	for i := range text {
+		text[i] = bytes[r.Intn(len(bytes))]
+	}
+	return string(text)
+}
+
+// Any texts and any op: Slow and Check end, do not panic, and answer the same
+// again.
+func TestAnythingGoesPutTogether(t *testing.T) {
+	r := rand.New(rand.NewSource(3))
+	ops := []int{0, 1, 2, 3, 0, 1, 2, 3, 4, -1, 1 << 40, -1 << 40, int(^uint(0) >> 1), -int(^uint(0)>>1) - 1}
+	text := func() string {
+		if r.Intn(5) == 0 {
+			return someBytes(r, "0123456789,,,,,  ;--\xe2\x88\x92\xff\x00x", 130)
+		}
+		return someText(r, 12, 2, 6)
+	}
+	for range 3000 {
+		a, b, op := text(), text(), ops[r.Intn(len(ops))]
+		s, e, at := acre.Slow(a, b, op)
+		u, d, bt := acre.Slow(a, b, op)
+		if s != u || e != d || at != bt || e != acre.OK && s != "" || e == acre.OK && at != 0 {
+			t.Fatalf("P1: Slow(%q, %q, %d) = %q, %d, %d, then %q, %d, %d", a, b, op, s, e, at, u, d, bt)
+		}
+		for _, cert := range []string{s, someBytes(r, "0123456789////    ;;--x\xff", 60), s + someBytes(r, "01/ ;-", 9), s[:r.Intn(len(s)+1)]} {
+			e, at := acre.Check(a, b, op, cert)
+			d, bt := acre.Check(a, b, op, cert)
+			if e != d || at != bt || (e == acre.OK || e == acre.ErrWrong || e == acre.ErrArg) && at != 0 {
+				t.Fatalf("P1: Check(%q, %q, %d, %q) = %d, %d, then %d, %d", a, b, op, cert, e, at, d, bt)
+			}
+		}
+	}
+}
+
+// Much to do, and still an end: as many pieces as there may be, with as many
+// x's where they begin, over fields of as many edges.
+func TestCheckEnds(t *testing.T) {
+	k := task{great[0], great[3], 3}
+	cert, _, _ := acre.Slow(k.a, k.b, k.op)
+	pieces, lines := parse(cert), linesOf(k)
+	for n := 0; len(pieces) < 4000; n++ {
+		line := lines[n%len(lines)]
+		pieces = append(pieces, laid{rat(n-2000, 1+n%1152), rat(12, 1), line, line})
+		if last := pieces[len(pieces)-1].from; last.Cmp(rat(-12, 1)) < 0 || last.Cmp(rat(12, 1)) >= 0 {
+			pieces = pieces[:len(pieces)-1]
+		}
+	}
+	if e, at := acre.Check(k.a, k.b, k.op, write(pieces)); e != acre.OK || at != 0 {
+		t.Errorf("P1, P7: Check of Slow's pieces, and many with nothing in them = %d, %d", e, at)
+	}
+}

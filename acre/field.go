@@ -48,6 +48,14 @@ func edgesOf(field [][]Point) []Edge {
 	return edges
 }
 
+func isUpright(e Edge) bool { return e[0].X == e[1].X }
+
+// height is the y at x of the line through an edge that is not upright.
+func height(e Edge, x Frac) Frac {
+	way := along(e)
+	return lowest(e[0].Y*way.X*x.D+(x.N-e[0].X*x.D)*way.Y, way.X*x.D)
+}
+
 // isOn tells whether the place is on the edge, its ends included. The box is
 // needed besides the line: it cuts the line off at the ends, and it alone
 // tells where an edge is that is a point.

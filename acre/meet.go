@@ -25,13 +25,18 @@ func cross(v, w Point) int {
 	return v.X*w.Y - v.Y*w.X
 }
 
+// crossing is where the edges' lines cross; turn is the cross of their ways,
+// not 0.
+func crossing(e, f Edge, turn int) (Frac, Frac) {
+	way := along(e)
+	share := cross(difference(f[0], e[0]), along(f)) // of turn: how far along e the place is
+	return lowest(e[0].X*turn+share*way.X, turn), lowest(e[0].Y*turn+share*way.Y, turn)
+}
+
 // meetAcross is for edges whose lines cross: there the place is the one of
 // the lines, if neither edge ends ahead of it.
 func meetAcross(e, f Edge, turn int) (int, Frac, Frac) {
-	way := along(e)
-	share := cross(difference(f[0], e[0]), along(f)) // of turn: how far along e the place is
-	x := lowest(e[0].X*turn+share*way.X, turn)
-	y := lowest(e[0].Y*turn+share*way.Y, turn)
+	x, y := crossing(e, f, turn)
 	if !isInBox(e, x, y) || !isInBox(f, x, y) {
 		return 0, Frac{}, Frac{}
 	}

@@ -53,18 +53,30 @@ func compare(f Frac, n int) int {
 	return sign(f.N - n*f.D)
 }
 
+// order is the sign of f - g. Heights in a slab may be so long that an int of
+// 32 bits would not hold the products.
+func order(f, g Frac) int {
+	return sign(int64(f.N)*int64(g.D) - int64(g.N)*int64(f.D))
+}
+
+// mediant is between the two, and has a smaller denominator than the middle.
+func mediant(f, g Frac) Frac {
+	return lowest(f.N+g.N, f.D+g.D)
+}
+
 // between tells whether f lies from a to b or from b to a: then it is not
 // beyond both on the same side.
 func between(f Frac, a, b int) bool {
 	return compare(f, a)*compare(f, b) <= 0
 }
 
-// isNear tells whether f is a fraction that Where takes. D is looked at first,
-// since only a small one can be multiplied safely.
-func isNear(f Frac) bool {
+// isWithin tells whether f is a fraction from -side to side whose denominator
+// keeps its limit. D is looked at first, since only a small one can be
+// multiplied safely.
+func isWithin(f Frac, side int) bool {
 	if f.D < 1 || f.D > maxDen {
 		return false
 	}
-	reach := (maxSide + 1) * f.D
+	reach := side * f.D
 	return f.N >= -reach && f.N <= reach && gcd(f.N, f.D) == 1
 }

@@ -43,3 +43,27 @@ func TestLowest(t *testing.T) {
 		}
 	}
 }
+
+func TestOrder(t *testing.T) {
+	for _, c := range []struct {
+		f, g Frac
+		want int
+	}{{Frac{0, 1}, Frac{0, 1}, 0}, {Frac{1, 2}, Frac{1, 3}, 1}, {Frac{-1, 2}, Frac{-1, 3}, -1}, {Frac{1, 1152}, Frac{1, 1151}, -1}, {Frac{-12, 1}, Frac{13823, 1152}, -1}, {Frac{5, 1}, Frac{5, 1}, 0}} {
+		if got := order(c.f, c.g); got != c.want || order(c.g, c.f) != -c.want {
+			t.Errorf("order(%v, %v) = %d, want %d", c.f, c.g, got, c.want)
+		}
+	}
+}
+
+func TestMediant(t *testing.T) {
+	for _, c := range [][2]Frac{{{-12, 1}, {12, 1}}, {{0, 1}, {1, 1}}, {{1, 1152}, {1, 1151}}, {{-13823, 1152}, {-12, 1105}}, {{-1, 2}, {1, 2}}} {
+		low, high := c[0], c[1]
+		if order(low, high) > 0 {
+			low, high = high, low
+		}
+		m := mediant(c[0], c[1])
+		if order(low, m) >= 0 || order(m, high) >= 0 || m != lowest(m.N, m.D) {
+			t.Errorf("mediant(%v, %v) = %v", c[0], c[1], m)
+		}
+	}
+}

@@ -9,7 +9,7 @@ const (
 
 // Where tells whether a place is out of a field, on it, or in it (P4).
 func Where(field [][]Point, x Frac, y Frac) (int, Errno) {
-	if !isField(field) || !isNear(x) || !isNear(y) {
+	if !isField(field) || !isWithin(x, maxSide+1) || !isWithin(y, maxSide+1) {
 		return 0, ErrArg
 	}
 	crossings := 0
