@@ -30,9 +30,3 @@ type Piece struct {
 	From, To  Frac
 	Low, High Edge
 }
-
-// Guess guesses a certificate (P6).
-func Guess(a string, b string, op int) (string, Errno, int) { return "", 0, 0 }
-
-// Combine puts two fields together (P8).
-func Combine(a string, b string, op int, offer string) ([]Piece, Errno, int) { return nil, 0, 0 }

@@ -3,6 +3,7 @@ package acre_test
 import (
 	"math/rand"
 	"reflect"
+	"slices"
 	"testing"
 
 	"acre/acre"
@@ -58,6 +59,23 @@ func TestAnswersAreNewMemory(t *testing.T) {
 	}
 }
 
+// What is written into pieces that were answered, and past their end, is seen
+// in no other answer, whether they were offered or made.
+func TestPiecesAreNewMemory(t *testing.T) {
+	for _, offer := range []string{"2/1 4/1 0 2;0/1 2/1 0 2", "x", ""} {
+		first, _, _ := acre.Combine(square, "", 1, offer)
+		second, _, _ := acre.Combine(square, "", 1, offer)
+		want := slices.Clone(second)
+		if len(want) == 0 {
+			t.Fatalf("P8: Combine with %q offered answers no pieces", offer)
+		}
+		clear(first[:cap(first)])
+		if third, _, _ := acre.Combine(square, "", 1, offer); !slices.Equal(second, want) || !slices.Equal(third, want) {
+			t.Errorf("P1: after a change of one answer others are %v and %v, want %v", second, third, want)
+		}
+	}
+}
+
 // Any bytes and any numbers: the calls end, do not panic, and answer the same
 // again.
 func TestAnythingGoes(t *testing.T) {
@@ -105,9 +123,10 @@ func someBytes(r *rand.Rand, bytes string, most int) string {
 	return string(text)
 }
 
-// Any texts and any op: Slow and Check end, do not panic, and answer the same
-// again.
+// Any texts and any op: the calls on two texts end, do not panic, and answer
+// the same again.
 func TestAnythingGoesPutTogether(t *testing.T) {
+	t.Parallel()
 	r := rand.New(rand.NewSource(3))
 	ops := []int{0, 1, 2, 3, 0, 1, 2, 3, 4, -1, 1 << 40, -1 << 40, int(^uint(0) >> 1), -int(^uint(0)>>1) - 1}
 	text := func() string {
@@ -123,11 +142,21 @@ func TestAnythingGoesPutTogether(t *testing.T) {
 		if s != u || e != d || at != bt || e != acre.OK && s != "" || e == acre.OK && at != 0 {
 			t.Fatalf("P1: Slow(%q, %q, %d) = %q, %d, %d, then %q, %d, %d", a, b, op, s, e, at, u, d, bt)
 		}
+		g, e, at := acre.Guess(a, b, op)
+		h, d, bt := acre.Guess(a, b, op)
+		if g != h || e != d || at != bt || e != acre.OK && g != "" || e == acre.OK && at != 0 {
+			t.Fatalf("P1: Guess(%q, %q, %d) = %q, %d, %d, then %q, %d, %d", a, b, op, g, e, at, h, d, bt)
+		}
 		for _, cert := range []string{s, someBytes(r, "0123456789////    ;;--x\xff", 60), s + someBytes(r, "01/ ;-", 9), s[:r.Intn(len(s)+1)]} {
 			e, at := acre.Check(a, b, op, cert)
 			d, bt := acre.Check(a, b, op, cert)
 			if e != d || at != bt || (e == acre.OK || e == acre.ErrWrong || e == acre.ErrArg) && at != 0 {
 				t.Fatalf("P1: Check(%q, %q, %d, %q) = %d, %d, then %d, %d", a, b, op, cert, e, at, d, bt)
+			}
+			l, e, at := acre.Combine(a, b, op, cert)
+			m, d, bt := acre.Combine(a, b, op, cert)
+			if !slices.Equal(l, m) || e != d || at != bt || e != acre.OK && l != nil || e == acre.OK && at != 0 {
+				t.Fatalf("P1: Combine(%q, %q, %d, %q) = %v, %d, %d, then %v, %d, %d", a, b, op, cert, l, e, at, m, d, bt)
 			}
 		}
 	}

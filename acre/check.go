@@ -6,17 +6,23 @@ func Check(a string, b string, op int, cert string) (Errno, int) {
 	if err != OK {
 		return err, at
 	}
+	_, err, at = p.check(cert)
+	return err, at
+}
+
+// check answers the pieces of a certificate that is right.
+func (p pair) check(cert string) ([]Piece, Errno, int) {
 	if len(cert) > maxCert {
-		return ErrLong, 0
+		return nil, ErrLong, 0
 	}
 	pieces, at, ok := readCert(cert, p.edges)
 	if !ok {
-		return ErrCert, at
+		return nil, ErrCert, at
 	}
 	if !p.isFilledBy(pieces) {
-		return ErrWrong, 0
+		return nil, ErrWrong, 0
 	}
-	return OK, 0
+	return pieces, OK, 0
 }
 
 // isFilledBy tells whether the pieces are right. The x's between slabs need

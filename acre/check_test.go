@@ -210,6 +210,7 @@ func linesOf(k task) []int {
 }
 
 func TestCheckSpoiltPieces(t *testing.T) {
+	t.Parallel()
 	r := rand.New(rand.NewSource(9))
 	var n tally
 	for i := range 700 {
@@ -264,6 +265,7 @@ func TestCheckOtherCuts(t *testing.T) {
 
 // One of Slow's pieces may never be left out or laid twice.
 func TestCheckEveryPieceCounts(t *testing.T) {
+	t.Parallel()
 	for i, a := range kinds {
 		k := task{a, kinds[(i+5)%len(kinds)], 1 + i%3}
 		cert, _, _ := acre.Slow(k.a, k.b, k.op)

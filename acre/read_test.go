@@ -143,6 +143,7 @@ func TestReadShortTexts(t *testing.T) {
 
 // A long text is broken off at each byte, and each byte is put out of joint.
 func TestReadSpoiltTexts(t *testing.T) {
+	t.Parallel()
 	for _, text := range []string{
 		"-12,12 \u22123,04 5,\u22126 00,-0;1,1 \u221210,\u221211 1,1 2,-2 7,7",
 		"\u22121,\u22122 3,4 05,06;1,1 1,1 1,1",

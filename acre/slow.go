@@ -1,5 +1,7 @@
 package acre
 
+import "iter"
+
 // band is the two edges that a piece lies between, Low and High.
 type band [2]Edge
 
@@ -12,13 +14,18 @@ func Slow(a string, b string, op int) (string, Errno, int) {
 	return writeCert(p.cut(), p.edges), OK, 0
 }
 
-// cut makes the pieces, and lengthens one as far as its band goes on. There
-// are never too many for a certificate: 24 edges have 24 x's where they begin
-// and 276 where their lines cross, that is 299 slabs, and 12 bands in each.
+// cut makes pieces that are right. There are never too many for a
+// certificate: 24 edges have 24 x's where they begin and 276 where their lines
+// cross, that is 299 slabs, and 12 bands in each.
 func (p pair) cut() []Piece {
+	return joined(p.slabs(nil))
+}
+
+// joined lengthens a piece as far as its band goes on from slab to slab.
+func joined(slabs iter.Seq[slab]) []Piece {
 	var pieces []Piece
 	last := map[band]int{}
-	for s := range p.slabs(nil) {
+	for s := range slabs {
 		for _, b := range s.bands() {
 			i, ok := last[b]
 			if ok && pieces[i].To == s.from {

@@ -56,6 +56,7 @@ func checkSlow(t *testing.T, k task) string {
 }
 
 func TestSlowAllKinds(t *testing.T) {
+	t.Parallel()
 	for _, a := range kinds {
 		for _, b := range kinds {
 			for op := range 4 {
@@ -111,6 +112,7 @@ func someText(r *rand.Rand, side, rings, points int) string {
 }
 
 func TestSlowSomeFields(t *testing.T) {
+	t.Parallel()
 	r := rand.New(rand.NewSource(7))
 	for i := range 400 {
 		side := []int{1, 2, 3, 12}[i%4]
@@ -127,6 +129,7 @@ var great = []string{
 }
 
 func TestSlowGreatFields(t *testing.T) {
+	t.Parallel()
 	for i, a := range great {
 		for j, b := range great {
 			for op := range 4 {
@@ -196,6 +199,12 @@ func TestPairRefuses(t *testing.T) {
 			if e, at := acre.Check(c.a, c.b, c.op, cert); e != c.e || at != c.at {
 				t.Errorf("P6: Check(%q, %q, %d, %.20q) = %d, %d, want %d, %d", c.a, c.b, c.op, cert, e, at, c.e, c.at)
 			}
+			if pieces, e, at := acre.Combine(c.a, c.b, c.op, cert); len(pieces) != 0 || e != c.e || at != c.at {
+				t.Errorf("P6: Combine(%q, %q, %d, %.20q) = %v, %d, %d, want %d, %d", c.a, c.b, c.op, cert, pieces, e, at, c.e, c.at)
+			}
+		}
+		if text, e, at := acre.Guess(c.a, c.b, c.op); text != "" || e != c.e || at != c.at {
+			t.Errorf("P6: Guess(%q, %q, %d) = %q, %d, %d, want %d, %d", c.a, c.b, c.op, text, e, at, c.e, c.at)
 		}
 	}
 }
